@@ -1,159 +1,14 @@
 package syntax_test
 
 import (
-	"strconv"
 	"strings"
 	"testing"
 
 	"keystone/api"
 	"keystone/lexis"
+	"keystone/print"
 	"keystone/syntax"
 )
-
-// printer writes a module as chapter 14 says.
-type printer struct{ strings.Builder }
-
-func (p *printer) all(l ...string) {
-	for _, s := range l {
-		p.WriteString(s)
-	}
-}
-
-var kindWords = []string{"", "int", "bool", "bytes", "point"}
-
-func columnsText(l []api.Column) string {
-	var parts []string
-	for _, c := range l {
-		parts = append(parts, c.Name+" "+kindWords[c.Kind])
-	}
-	return strings.Join(parts, ", ")
-}
-
-func moduleText(m api.Module) string {
-	var p printer
-	for _, t := range m.Tables {
-		p.all("table ", t.Name, "(", columnsText(t.Key), ";")
-		if len(t.Val) > 0 {
-			p.all(" ", columnsText(t.Val))
-		}
-		p.all(");\n")
-	}
-	for _, x := range m.Procs {
-		p.all(map[bool]string{false: "proc ", true: "helper "}[x.Helper], x.Name, "(", columnsText(x.Params), ") ", kindWords[x.Result], " {\n")
-		p.stmts(x.Body, 1)
-		p.all("}\n")
-	}
-	return p.String()
-}
-
-func (p *printer) stmts(l []api.Stmt, depth int) {
-	for _, s := range l {
-		p.all(strings.Repeat("\t", depth))
-		names, args, vals := strings.Join(s.Names, ", "), termsText(s.Args), termsText(s.Vals)
-		switch s.Op {
-		case api.SLet:
-			p.all("let ", names, " = ", args, ";\n")
-		case api.SAssign:
-			p.all(names, " = ", args, ";\n")
-		case api.SIf:
-			p.all("if ", args)
-		case api.SWhile:
-			p.all("while ", args)
-		case api.SGet:
-			p.all(strings.Replace("get "+names+" = ", "  ", " ", 1), s.Table, "(", args, ");\n")
-		case api.SHas:
-			p.all("has ", names, " = ", s.Table, "(", args, ");\n")
-		case api.SPut, api.SAdd, api.SChange:
-			p.all([]string{"put ", "add ", "change "}[s.Op-api.SPut], s.Table, "(", args, ") = (", vals, ");\n")
-		case api.SDel:
-			p.all("del ", s.Table, "(", args, ");\n")
-		case api.SFor:
-			p.all("for ", names, " in ", s.Table, "(", args, ") to (", vals, ")")
-		case api.SRaise:
-			p.all("raise ", args, ";\n")
-		case api.SReturn:
-			p.all("return ", args, ";\n")
-		}
-		if s.Op == api.SIf || s.Op == api.SWhile || s.Op == api.SFor {
-			p.blocks(s, depth)
-		}
-	}
-}
-
-func (p *printer) blocks(s api.Stmt, depth int) {
-	p.all(" {\n")
-	p.stmts(s.Body, depth+1)
-	if len(s.Else) > 0 {
-		p.all(strings.Repeat("\t", depth), "} else {\n")
-		p.stmts(s.Else, depth+1)
-	}
-	p.all(strings.Repeat("\t", depth), "}\n")
-}
-
-func termsText(l []api.Term) string {
-	var parts []string
-	for _, t := range l {
-		parts = append(parts, termText(t))
-	}
-	return strings.Join(parts, ", ")
-}
-
-// levelOf is a term's, 7 of those that stand by themselves.
-func levelOf(op int) int {
-	for _, o := range binary {
-		if o.op == op {
-			return o.line
-		}
-	}
-	if op == api.XNeg || op == api.XNot {
-		return 6
-	}
-	return 7
-}
-
-func termText(t api.Term) string {
-	level := levelOf(t.Op)
-	operand := func(i, least int) string {
-		if levelOf(t.Args[i].Op) < least {
-			return "(" + termText(t.Args[i]) + ")"
-		}
-		return termText(t.Args[i])
-	}
-	for _, o := range binary {
-		if o.op == t.Op && level == 3 {
-			return operand(0, 4) + " " + o.sign + " " + operand(1, 4)
-		} else if o.op == t.Op {
-			return operand(0, level) + " " + o.sign + " " + operand(1, level+1)
-		}
-	}
-	args := "(" + termsText(t.Args) + ")"
-	switch t.Op {
-	case api.XNeg:
-		return "-" + operand(0, 6)
-	case api.XNot:
-		return "!" + operand(0, 6)
-	case api.XLen:
-		return "len" + args
-	case api.XPoint:
-		return "point" + args
-	case api.XRe:
-		return "re" + args
-	case api.XIm:
-		return "im" + args
-	case api.XCall:
-		return t.Name + args
-	case api.XVar:
-		return t.Name
-	}
-	switch t.Val.Kind {
-	case api.KInt:
-		return strconv.FormatInt(t.Val.Int, 10)
-	case api.KBool:
-		return strconv.FormatBool(t.Val.Yes)
-	}
-	q, _ := lexis.Quote(t.Val.Bytes)
-	return q
-}
 
 func TestThereAndBack(t *testing.T) { // P13.3: what is printed is read as what it is
 	n, gaps := numbers(31), numbers(32)
@@ -165,14 +20,14 @@ func TestThereAndBack(t *testing.T) { // P13.3: what is printed is read as what 
 		if e != api.OK {
 			continue // too deep
 		}
-		s := moduleText(first)
-		again, at, e := syntax.Parse(s)
-		if e == api.ErrDeep {
-			deep++ // the print may be too deep where the text is not
+		s, e := print.Module(first)
+		if e == api.ErrPrint {
+			deep++ // the print would be too deep where the text is not
 			continue
 		}
-		if e != api.OK || !syntax.Same(first, again) || said(syntax.Strip(first)) != said(syntax.Strip(again)) {
-			t.Fatalf("%q, %q: %d, %v, %s", m.text.String(), s, at, e, said(again))
+		again, at, why := syntax.Parse(s)
+		if e != api.OK || why != api.OK || !syntax.Same(first, again) || said(syntax.Strip(first)) != said(syntax.Strip(again)) {
+			t.Fatalf("%q, %q, %v: %d, %v, %s", m.text.String(), s, e, at, why, said(again))
 		}
 	}
 	if deep > 100 {
