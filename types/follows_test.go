@@ -29,7 +29,9 @@ func TestNeverStuck(t *testing.T) { // P15.3: what is right runs as chapter 16 t
 		r := newRun(t, &n, all)
 		for _, p := range slices.Concat(all.Procs, all.Procs, all.Procs) {
 			r.fuel = 200
-			_, code := r.outcome(p, someValues(&n, p.Params))
+			args, rows := someValues(&n, p.Params), r.content()
+			v, code := r.outcome(p, args)
+			r.wantMeant(p, args, rows, v, code)
 			if code < 0 {
 				seen["failed"]++
 			} else {

@@ -6,6 +6,7 @@ import (
 	"testing"
 
 	"keystone/api"
+	"keystone/eval"
 	"keystone/tuple"
 	"keystone/types"
 )
@@ -54,6 +55,25 @@ func (r *run) outcome(p api.Proc, args []api.Value) (v api.Value, code int64) {
 		}
 	}()
 	return r.call(p, args), 0
+}
+
+// content are all rows.
+func (r *run) content() []api.Content {
+	var l []api.Content
+	for _, x := range r.all.Tables {
+		l = append(l, api.Content{Table: x.Name, Rows: r.rows[x.Name]})
+	}
+	return l
+}
+
+// wantMeant looks at what a call of a procedure, with 200 steps, has come to, which is what package eval says.
+func (r *run) wantMeant(p api.Proc, args []api.Value, rows []api.Content, v api.Value, code int64) {
+	r.t.Helper()
+	if p.Helper {
+		return
+	}
+	o, behind, steps, e := eval.Run(r.all, p.Name, args, rows, 200)
+	r.must(e == api.OK && o.Value == v && o.Code == code && steps == 200-r.fuel && said(behind) == said(r.content()), "meaning", p.Name, o, v, code, e)
 }
 
 func (r *run) must(is bool, l ...any) {
